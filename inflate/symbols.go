@@ -3,36 +3,10 @@ package inflate
 import (
 	"valise/api"
 	"valise/code"
+	"valise/items"
 )
 
-const (
-	blockEnd     = 256
-	firstLength  = 257
-	lastLength   = 285
-	lastDistance = 29
-)
-
-// lengthSpan tells the least length of a symbol, and how many further bits say what is added to it. From 11 on four symbols share each number of further bits: they part what lies between two powers of 2, moved by 3, into quarters.
-func lengthSpan(symbol int) (base, further int) {
-	if symbol == lastLength {
-		return api.MaxMatch, 0
-	}
-	i := symbol - firstLength
-	if i < 8 {
-		return api.MinMatch + i, 0
-	}
-	further = i/4 - 1
-	return api.MinMatch + (4+i%4)<<further, further
-}
-
-// distanceSpan tells the same of a distance. From 5 on two symbols share each number of further bits: they part what lies between two powers of 2, moved by 1, into halves.
-func distanceSpan(symbol int) (base, further int) {
-	if symbol < 4 {
-		return 1 + symbol, 0
-	}
-	further = symbol/2 - 1
-	return 1 + (2+symbol%2)<<further, further
-}
+const blockEnd = 256
 
 // symbols reads the symbols of a block up to its end.
 func (t *text) symbols(c codes) {
@@ -65,10 +39,10 @@ func (t *text) symbol(d *code.Decoder) int {
 
 // length takes what is left of a copy's length.
 func (t *text) length(symbol int) int {
-	if symbol > lastLength {
+	base, further, ok := items.Length(symbol)
+	if !ok {
 		giveUp(api.ErrInfSymbol)
 	}
-	base, further := lengthSpan(symbol)
 	return base + t.take(further)
 }
 
@@ -77,11 +51,10 @@ func (t *text) distance(d *code.Decoder) int {
 	if d == nil {
 		giveUp(api.ErrInfSymbol)
 	}
-	symbol := t.symbol(d)
-	if symbol > lastDistance {
+	base, further, ok := items.Distance(t.symbol(d))
+	if !ok {
 		giveUp(api.ErrInfSymbol)
 	}
-	base, further := distanceSpan(symbol)
 	return base + t.take(further)
 }
 
