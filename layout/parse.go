@@ -2,6 +2,7 @@ package layout
 
 import (
 	"valise/api"
+	"valise/extent"
 	"valise/record"
 )
 
@@ -55,48 +56,21 @@ func listed(file []byte, x api.End) ([]api.Entry, api.Errno) {
 
 // settleAll finds the entries in the bytes ahead of their directory.
 func settleAll(entries []api.Entry, ahead []byte) api.Errno {
-	taken := names{}
+	taken, finder := names{}, extent.In(ahead)
 	room := len(ahead)
 	for i := range entries {
-		x := &entries[i]
-		if e := taken.take(x.Central); e != api.OK {
+		if e := taken.take(entries[i].Central); e != api.OK {
 			return e
 		}
-		if !settle(x, ahead) {
+		x, there := finder.Find(entries[i].Central)
+		if !there {
 			return api.ErrLayLocal
 		}
-		room -= extentBytes(x)
+		room -= extentBytes(&x)
 		if room < 0 { // some overlap, so no entry will be told: that text is let go, for it could be the same bytes in every entry
 			x.LocalExtra = ""
 		}
+		entries[i] = x
 	}
 	return api.OK
-}
-
-// settle finds an entry's extent, and tells whether all that stands there is what its record says.
-func settle(x *api.Entry, ahead []byte) bool {
-	l, data, e := record.GetLocal(ahead, x.At)
-	if e != api.OK || !agree(l, x.Local) || data+x.Packed > len(ahead) {
-		return false
-	}
-	x.LocalExtra = l.Extra
-	x.From, x.Data, x.To = x.At, data, data+x.Packed
-	if !isLate(x.Local) {
-		return true
-	}
-	n, e := record.GetDescriptor(ahead, x.To, x.Local)
-	x.To += n
-	return e == api.OK
-}
-
-// agree tells whether a local header may stand with what the directory says of its entry.
-func agree(l, told api.Local) bool {
-	if _, e := record.SplitExtra(l.Extra); e != api.OK {
-		return false
-	}
-	l.Extra = told.Extra
-	if isLate(told) && l.Sum == 0 && l.Packed == 0 && l.Size == 0 {
-		l.Sum, l.Packed, l.Size = told.Sum, told.Packed, told.Size
-	}
-	return l == told
 }

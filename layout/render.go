@@ -2,6 +2,7 @@ package layout
 
 import (
 	"valise/api"
+	"valise/extent"
 	"valise/record"
 )
 
@@ -67,7 +68,7 @@ func check(items []api.Item) api.Errno {
 	taken := names{}
 	for i := range items {
 		c := items[i].Central
-		if isLate(c.Local) { // no descriptor is laid down
+		if extent.IsLate(c.Local) { // no descriptor is laid down
 			return api.ErrLayEntry
 		}
 		if e := taken.take(c); e != api.OK {

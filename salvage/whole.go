@@ -4,6 +4,7 @@ import (
 	"valise/api"
 	"valise/field"
 	"valise/record"
+	"valise/texts"
 )
 
 const (
@@ -18,8 +19,8 @@ const (
 
 // search is a file in which whole entries are looked for.
 type search struct {
-	file []byte
-	sums sums
+	file  []byte
+	texts texts.Texts
 }
 
 // wholeAt tells the whole entry that stands at a place.
@@ -29,9 +30,9 @@ func (s search) wholeAt(at int) (api.Entry, bool) {
 		return api.Entry{}, false
 	}
 	if toldLate(l) {
-		l, ok = s.measured(l, data)
+		l, ok = s.texts.Measured(l, data)
 	} else {
-		ok = s.holds(l, data)
+		ok = s.texts.Hold(l, data)
 	}
 	if !ok {
 		return api.Entry{}, false
@@ -77,30 +78,4 @@ func knownKind(text []byte) bool {
 // toldLate tells whether a local header leaves it to the descriptor to say the sum and the sizes.
 func toldLate(l api.Local) bool {
 	return l.Flags&lateFlag != 0 && l.Sum == 0 && l.Packed == 0 && l.Size == 0
-}
-
-// measured is the local header of an entry that is told late, with the sum and the sizes that its packed bytes say. Of stored ones nobody knows where they end.
-func (s search) measured(l api.Local, data int) (api.Local, bool) {
-	if l.Method != api.MethodDeflate {
-		return api.Local{}, false
-	}
-	plain, n, ok := unpacked(s.file[data:], api.MaxCapacity)
-	if !ok {
-		return api.Local{}, false
-	}
-	l.Sum, l.Packed, l.Size = field.Sum(plain), n, len(plain)
-	return l, true
-}
-
-// holds tells whether the packed bytes from a place on are there, and say what the local header tells.
-func (s search) holds(l api.Local, data int) bool {
-	if l.Packed > len(s.file)-data {
-		return false
-	}
-	to := data + l.Packed
-	if l.Method == api.MethodStore {
-		return l.Size == l.Packed && s.sums.of(data, to) == l.Sum
-	}
-	plain, n, ok := unpacked(s.file[data:to], l.Size)
-	return ok && n == l.Packed && len(plain) == l.Size && field.Sum(plain) == l.Sum
 }

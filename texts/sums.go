@@ -1,4 +1,4 @@
-package salvage
+package texts
 
 import (
 	"slices"
